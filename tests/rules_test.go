@@ -33,6 +33,22 @@ func numberArguments() []int64 {
 	return []int64{math.MinInt64, math.MinInt64 + 1, -64, -1, 0, 1, 62, 63, 64, 127, 255, 256, 1 << 32, math.MaxInt64}
 }
 
+func codesArguments() [][]int64 {
+	list := [][]int64{nil, {}, edgeCharacters, noCharacters, numberArguments(), {1078, 'a', 8470, 167}, {'a', 228}}
+	for _, n := range []int{impl.MaxBytes / 2, impl.MaxBytes, impl.MaxBytes + 1, 1 << 20} {
+		list = append(list, times(n, 'a'), times(n, 65535), times(n, -1))
+	}
+	return list
+}
+
+func charsetArguments() []int64 {
+	return slices.Concat(noCharsets, charsets)
+}
+
+func nameArguments() []string {
+	return append(textArguments(), "us-ascii", "ISO-8859-1", "Utf-16", "utf-8 ", "utf-7")
+}
+
 // answer is one call's, told so that an empty list and nil are the same.
 type answer struct {
 	call string
@@ -48,14 +64,41 @@ func bytesAnswer(call string, r impl.BytesResult) answer {
 	return answer{call, r.Code, string(r.Bytes)}
 }
 
+func codesAnswer(call string, r impl.CodesResult) answer {
+	return answer{call, r.Code, numbersText(r.Codes)}
+}
+
+func intAnswer(call string, r impl.IntResult) answer {
+	if r.Value == 0 {
+		return answer{call, r.Code, ""}
+	}
+	return answer{call, r.Code, strconv.FormatInt(r.Value, 10)}
+}
+
+func boolAnswer(call string, b bool) answer {
+	return answer{call, impl.OK, strconv.FormatBool(b)}
+}
+
+func numbersText(list []int64) string {
+	var text []byte
+	for _, n := range list {
+		text = append(strconv.AppendInt(text, n, 10), ' ')
+	}
+	return string(text)
+}
+
 // allAnswers calls each function that is built with all arguments of its kind.
 func allAnswers() []answer {
+	return slices.Concat(xferAnswers(), charsAnswers())
+}
+
+func xferAnswers() []answer {
 	var list []answer
 	for i, data := range byteArguments() {
 		at := strconv.Itoa(i)
 		list = append(list, textAnswer("EncodeBase "+at, impl.EncodeBase(data)))
 		list = append(list, textAnswer("EncodeQuoted "+at, impl.EncodeQuoted(data)))
-		list = append(list, answer{"IsPlain " + at, impl.OK, strconv.FormatBool(impl.IsPlain(data))})
+		list = append(list, boolAnswer("IsPlain "+at, impl.IsPlain(data)))
 	}
 	for i, text := range textArguments() {
 		at := strconv.Itoa(i)
@@ -63,12 +106,31 @@ func allAnswers() []answer {
 		list = append(list, bytesAnswer("DecodeQuoted "+at, impl.DecodeQuoted(text)))
 	}
 	for _, v := range numberArguments() {
-		r := impl.BaseDigit(v)
-		rest := ""
-		if r.Value != 0 {
-			rest = strconv.FormatInt(r.Value, 10)
+		list = append(list, intAnswer("BaseDigit "+strconv.FormatInt(v, 10), impl.BaseDigit(v)))
+	}
+	return list
+}
+
+func charsAnswers() []answer {
+	var list []answer
+	for i, name := range nameArguments() {
+		list = append(list, intAnswer("CharsetOf "+strconv.Itoa(i), impl.CharsetOf(name)))
+	}
+	for i, codes := range codesArguments() {
+		list = append(list, answer{"CodesFault " + strconv.Itoa(i), impl.CodesFault(codes), ""})
+	}
+	for _, cs := range charsetArguments() {
+		of := " " + strconv.FormatInt(cs, 10) + " "
+		list = append(list, textAnswer("CharsetName"+of, impl.CharsetName(cs)))
+		for i, data := range byteArguments() {
+			list = append(list, codesAnswer("DecodeText"+of+strconv.Itoa(i), impl.DecodeText(cs, data)))
 		}
-		list = append(list, answer{"BaseDigit " + strconv.FormatInt(v, 10), r.Code, rest})
+		for i, codes := range codesArguments() {
+			list = append(list, bytesAnswer("EncodeText"+of+strconv.Itoa(i), impl.EncodeText(cs, codes)))
+		}
+		for _, c := range slices.Concat(edgeCharacters, noCharacters) {
+			list = append(list, boolAnswer("HasChar"+of+strconv.FormatInt(c, 10), impl.HasChar(cs, c)))
+		}
 	}
 	return list
 }
@@ -81,7 +143,7 @@ func TestWithACodeAllElseIsZero(t *testing.T) {
 			t.Errorf("%s: code %d beside an answer", a.call, a.code)
 		}
 	}
-	for _, code := range []int64{impl.OK, impl.ErrMany, impl.ErrRange, impl.ErrCode} {
+	for _, code := range []int64{impl.OK, impl.ErrMany, impl.ErrRange, impl.ErrNone, impl.ErrCode, impl.ErrChars} {
 		if codes[code] == 0 {
 			t.Errorf("no call has the code %d", code)
 		}
@@ -105,8 +167,23 @@ func TestArgumentsStayAsTheyWere(t *testing.T) {
 		impl.EncodeBase(given)
 		impl.EncodeQuoted(given)
 		impl.IsPlain(given)
+		for _, cs := range charsetArguments() {
+			impl.DecodeText(cs, given)
+		}
 		if !bytes.Equal(room, before) {
 			t.Errorf("argument %d was changed", i)
+		}
+	}
+	for i, codes := range codesArguments() {
+		room := append(slices.Clone(codes), 1, 2, 3, 4, 5, 6, 7, 8)
+		before := slices.Clone(room)
+		given := room[:len(codes)]
+		impl.CodesFault(given)
+		for _, cs := range charsetArguments() {
+			impl.EncodeText(cs, given)
+		}
+		if !slices.Equal(room, before) {
+			t.Errorf("characters %d were changed", i)
 		}
 	}
 }
@@ -117,6 +194,19 @@ func TestAnswersHangOnWhatIsGivenNotOnItsRoom(t *testing.T) {
 	tight := slices.Clip(slices.Clone(data))
 	if impl.EncodeBase(room[:len(data)]) != impl.EncodeBase(tight) || impl.EncodeQuoted(room[:len(data)]) != impl.EncodeQuoted(tight) || impl.IsPlain(room[:len(data)]) != impl.IsPlain(tight) {
 		t.Error("what is behind the bytes counts")
+	}
+	halves := []byte("\xc3\xa4\xe2\x82\xac")
+	for n := range len(halves) + 1 {
+		tight := slices.Clip(slices.Clone(halves[:n]))
+		for _, cs := range charsets {
+			if !reflect.DeepEqual(impl.DecodeText(cs, halves[:n]), impl.DecodeText(cs, tight)) {
+				t.Errorf("%d: what is behind %d bytes counts", cs, n)
+			}
+		}
+	}
+	codes := []int64{'a', 'b', -1, 55296}
+	if got := impl.EncodeText(impl.CsUtf8, codes[:2]); got.Code != impl.OK || string(got.Bytes) != "ab" || impl.CodesFault(codes[:2]) != impl.OK {
+		t.Error("what is behind the characters counts")
 	}
 }
 
@@ -136,5 +226,25 @@ func TestAnswersAreNewMemory(t *testing.T) {
 	clear(data)
 	if base.Text != "YWJjYWJj" || quoted.Text != "abcabc" {
 		t.Error("an answer shares memory with its argument")
+	}
+}
+
+func TestAnswersOfCharsetsAreNewMemory(t *testing.T) {
+	for _, cs := range charsets {
+		codes := times(50, 'a', 'b')
+		data := impl.EncodeText(cs, codes)
+		read := impl.DecodeText(cs, data.Bytes)
+		bytesBefore, codesBefore := slices.Clone(data.Bytes), slices.Clone(read.Codes)
+		otherData, otherRead := impl.EncodeText(cs, codes), impl.DecodeText(cs, data.Bytes)
+		clear(codes)
+		clear(otherData.Bytes[:cap(otherData.Bytes)])
+		clear(otherRead.Codes[:cap(otherRead.Codes)])
+		if !bytes.Equal(data.Bytes, bytesBefore) {
+			t.Errorf("%d: bytes share memory", cs)
+		}
+		clear(data.Bytes)
+		if !slices.Equal(read.Codes, codesBefore) {
+			t.Errorf("%d: characters share memory", cs)
+		}
 	}
 }
