@@ -45,8 +45,12 @@ func charsetArguments() []int64 {
 	return slices.Concat(noCharsets, charsets)
 }
 
+func comparatorArguments() []int64 {
+	return slices.Concat(noComparators, comparators)
+}
+
 func nameArguments() []string {
-	return append(textArguments(), "us-ascii", "ISO-8859-1", "Utf-16", "utf-8 ", "utf-7")
+	return append(textArguments(), "us-ascii", "ISO-8859-1", "Utf-16", "utf-8 ", "utf-7", "i;octet", "i;unicode-casemap", "I;octet", "i;octet ")
 }
 
 // answer is one call's, told so that an empty list and nil are the same.
@@ -89,7 +93,7 @@ func numbersText(list []int64) string {
 
 // allAnswers calls each function that is built with all arguments of its kind.
 func allAnswers() []answer {
-	return slices.Concat(xferAnswers(), charsAnswers())
+	return slices.Concat(xferAnswers(), charsAnswers(), collateAnswers())
 }
 
 func xferAnswers() []answer {
@@ -133,6 +137,40 @@ func charsAnswers() []answer {
 		}
 	}
 	return list
+}
+
+func collateAnswers() []answer {
+	var list []answer
+	for i, name := range nameArguments() {
+		list = append(list, intAnswer("ComparatorOf "+strconv.Itoa(i), impl.ComparatorOf(name)))
+	}
+	lists, pairs := codesArguments(), codesPairs()
+	for _, cmp := range comparatorArguments() {
+		of := " " + strconv.FormatInt(cmp, 10) + " "
+		for _, c := range slices.Concat(edgeCharacters, noCharacters) {
+			list = append(list, intAnswer("MapChar"+of+strconv.FormatInt(c, 10), impl.MapChar(cmp, c)))
+		}
+		for i, codes := range lists {
+			list = append(list, codesAnswer("MapCodes"+of+strconv.Itoa(i), impl.MapCodes(cmp, codes)))
+		}
+		for i, pair := range pairs {
+			list = append(list, intAnswer("CompareCodes"+of+strconv.Itoa(i), impl.CompareCodes(cmp, pair[0], pair[1])))
+			list = append(list, boolAnswer("HasCodes"+of+strconv.Itoa(i), impl.HasCodes(cmp, pair[0], pair[1])))
+		}
+	}
+	return list
+}
+
+// codesPairs has each list of characters on either side of each other one, and of itself.
+func codesPairs() [][2][]int64 {
+	var pairs [][2][]int64
+	lists := codesArguments()
+	for _, a := range lists {
+		for _, b := range lists {
+			pairs = append(pairs, [2][]int64{a, b})
+		}
+	}
+	return pairs
 }
 
 func TestWithACodeAllElseIsZero(t *testing.T) {
@@ -182,6 +220,15 @@ func TestArgumentsStayAsTheyWere(t *testing.T) {
 		for _, cs := range charsetArguments() {
 			impl.EncodeText(cs, given)
 		}
+		for _, cmp := range comparatorArguments() {
+			impl.MapCodes(cmp, given)
+			impl.CompareCodes(cmp, given, given)
+			impl.CompareCodes(cmp, given, []int64{'a', 228})
+			impl.CompareCodes(cmp, []int64{'a', 228}, given)
+			impl.HasCodes(cmp, given, given)
+			impl.HasCodes(cmp, given, []int64{'a', 228})
+			impl.HasCodes(cmp, []int64{'a', 228}, given)
+		}
 		if !slices.Equal(room, before) {
 			t.Errorf("characters %d were changed", i)
 		}
@@ -207,6 +254,12 @@ func TestAnswersHangOnWhatIsGivenNotOnItsRoom(t *testing.T) {
 	codes := []int64{'a', 'b', -1, 55296}
 	if got := impl.EncodeText(impl.CsUtf8, codes[:2]); got.Code != impl.OK || string(got.Bytes) != "ab" || impl.CodesFault(codes[:2]) != impl.OK {
 		t.Error("what is behind the characters counts")
+	}
+	for _, cmp := range comparators {
+		ab, abc := []int64{'a', 'b'}, []int64{'a', 'b', 'c'}
+		if impl.MapCodes(cmp, codes[:2]).Code != impl.OK || impl.CompareCodes(cmp, abc[:2], ab).Value != 0 || impl.CompareCodes(cmp, codes[:2], abc).Value != -1 || impl.HasCodes(cmp, abc[:2], abc) || !impl.HasCodes(cmp, ab, abc[:2]) {
+			t.Errorf("%d: what is behind the characters counts", cmp)
+		}
 	}
 }
 
@@ -245,6 +298,23 @@ func TestAnswersOfCharsetsAreNewMemory(t *testing.T) {
 		clear(data.Bytes)
 		if !slices.Equal(read.Codes, codesBefore) {
 			t.Errorf("%d: characters share memory", cs)
+		}
+	}
+}
+
+func TestAnswersOfComparatorsAreNewMemory(t *testing.T) {
+	for _, cmp := range comparators {
+		// Large letters count as themselves, so that handing the argument on would be tempting.
+		codes := times(50, 'A', 'B')
+		before := slices.Clone(codes)
+		first, second := impl.MapCodes(cmp, codes), impl.MapCodes(cmp, codes)
+		clear(first.Codes[:cap(first.Codes)])
+		if !slices.Equal(codes, before) {
+			t.Errorf("%d: an answer shares memory with its argument", cmp)
+		}
+		clear(codes)
+		if !slices.Equal(second.Codes, before) {
+			t.Errorf("%d: an answer shares memory with its argument or with another one", cmp)
 		}
 	}
 }
