@@ -53,6 +53,26 @@ func nameArguments() []string {
 	return append(textArguments(), "us-ascii", "ISO-8859-1", "Utf-16", "utf-8 ", "utf-7", "i;octet", "i;unicode-casemap", "I;octet", "i;octet ")
 }
 
+func fieldsArguments() [][]impl.Field {
+	list := [][]impl.Field{nil, {}, {{}}, field("A", ""), field("Subject", "=?utf-8?B?w6Q=?="), field("a b", ""), field("A", "\n"), field("\xff", "\x00")}
+	for _, n := range []int{2, 3, impl.MaxFields, impl.MaxFields + 1, 1 << 12} {
+		list = append(list, shortFields(n), someFields(n))
+	}
+	return append(list, field(strings.Repeat("a", 1<<20), ""), field("A", strings.Repeat("b", 1<<20)))
+}
+
+func headerArguments() [][]byte {
+	list := byteArguments()
+	for _, text := range []string{"\n", "A: b", "A: b\n\nz", "A: b\n c\n d\n", "A: b\n\tc\n", " a", "a", ":", "A:\nB:\n\n", strings.Repeat("A:\n", 9)} {
+		list = append(list, []byte(text))
+	}
+	return list
+}
+
+func wordsArguments() []string {
+	return append(textArguments(), "=?utf-8?Q?a=C3=A4_?= =?US-ASCII?b?Yg==?= y", "=?bad?Q?a?=", "=?", "=?utf-8?Q?", "=?utf-8?B??=", " \t", "\xe2\x82", strings.Repeat("=?", 1<<16), strings.Repeat("=?utf-8?Q?a?= ", 30))
+}
+
 // answer is one call's, told so that an empty list and nil are the same.
 type answer struct {
 	call string
@@ -83,6 +103,23 @@ func boolAnswer(call string, b bool) answer {
 	return answer{call, impl.OK, strconv.FormatBool(b)}
 }
 
+func headerAnswer(call string, r impl.HeaderResult) answer {
+	rest := fieldsText(r.Fields)
+	if r.At != 0 {
+		rest += strconv.FormatInt(r.At, 10)
+	}
+	return answer{call, r.Code, rest}
+}
+
+func fieldsText(list []impl.Field) string {
+	var text []byte
+	for _, f := range list {
+		text = strconv.AppendQuote(text, f.Name)
+		text = strconv.AppendQuote(text, f.Value)
+	}
+	return string(text)
+}
+
 func numbersText(list []int64) string {
 	var text []byte
 	for _, n := range list {
@@ -93,7 +130,7 @@ func numbersText(list []int64) string {
 
 // allAnswers calls each function that is built with all arguments of its kind.
 func allAnswers() []answer {
-	return slices.Concat(xferAnswers(), charsAnswers(), collateAnswers())
+	return slices.Concat(xferAnswers(), charsAnswers(), collateAnswers(), headerAnswers())
 }
 
 func xferAnswers() []answer {
@@ -161,6 +198,28 @@ func collateAnswers() []answer {
 	return list
 }
 
+func headerAnswers() []answer {
+	var list []answer
+	for i, fields := range fieldsArguments() {
+		at := strconv.Itoa(i)
+		list = append(list, answer{"FieldsFault " + at, impl.FieldsFault(fields), ""})
+		list = append(list, bytesAnswer("PackHeader "+at, impl.PackHeader(fields)))
+		for k, name := range append(nameArguments(), "A", "subject", "n7") {
+			list = append(list, textAnswer("FieldOf "+at+" "+strconv.Itoa(k), impl.FieldOf(fields, name)))
+		}
+	}
+	for i, data := range headerArguments() {
+		list = append(list, headerAnswer("ParseHeader "+strconv.Itoa(i), impl.ParseHeader(data)))
+	}
+	for i, value := range wordsArguments() {
+		list = append(list, codesAnswer("DecodeWords "+strconv.Itoa(i), impl.DecodeWords(value)))
+	}
+	for i, codes := range codesArguments() {
+		list = append(list, textAnswer("EncodeWords "+strconv.Itoa(i), impl.EncodeWords(codes)))
+	}
+	return list
+}
+
 // codesPairs has each list of characters on either side of each other one, and of itself.
 func codesPairs() [][2][]int64 {
 	var pairs [][2][]int64
@@ -181,7 +240,7 @@ func TestWithACodeAllElseIsZero(t *testing.T) {
 			t.Errorf("%s: code %d beside an answer", a.call, a.code)
 		}
 	}
-	for _, code := range []int64{impl.OK, impl.ErrMany, impl.ErrRange, impl.ErrNone, impl.ErrCode, impl.ErrChars} {
+	for _, code := range []int64{impl.OK, impl.ErrForm, impl.ErrMany, impl.ErrRange, impl.ErrNone, impl.ErrText, impl.ErrCode, impl.ErrChars} {
 		if codes[code] == 0 {
 			t.Errorf("no call has the code %d", code)
 		}
@@ -197,7 +256,7 @@ func TestNothingIsKept(t *testing.T) {
 }
 
 func TestArgumentsStayAsTheyWere(t *testing.T) {
-	for i, data := range byteArguments() {
+	for i, data := range headerArguments() {
 		// What is behind the length belongs to the caller as well.
 		room := append(slices.Clone(data), 1, 2, 3, 4, 5, 6, 7, 8)
 		before := slices.Clone(room)
@@ -205,6 +264,7 @@ func TestArgumentsStayAsTheyWere(t *testing.T) {
 		impl.EncodeBase(given)
 		impl.EncodeQuoted(given)
 		impl.IsPlain(given)
+		impl.ParseHeader(given)
 		for _, cs := range charsetArguments() {
 			impl.DecodeText(cs, given)
 		}
@@ -217,6 +277,7 @@ func TestArgumentsStayAsTheyWere(t *testing.T) {
 		before := slices.Clone(room)
 		given := room[:len(codes)]
 		impl.CodesFault(given)
+		impl.EncodeWords(given)
 		for _, cs := range charsetArguments() {
 			impl.EncodeText(cs, given)
 		}
@@ -231,6 +292,17 @@ func TestArgumentsStayAsTheyWere(t *testing.T) {
 		}
 		if !slices.Equal(room, before) {
 			t.Errorf("characters %d were changed", i)
+		}
+	}
+	for i, fields := range fieldsArguments() {
+		room := append(slices.Clone(fields), shortFields(3)...)
+		before := slices.Clone(room)
+		given := room[:len(fields)]
+		impl.FieldsFault(given)
+		impl.PackHeader(given)
+		impl.FieldOf(given, "subject")
+		if !slices.Equal(room, before) {
+			t.Errorf("fields %d were changed", i)
 		}
 	}
 }
@@ -259,6 +331,31 @@ func TestAnswersHangOnWhatIsGivenNotOnItsRoom(t *testing.T) {
 		ab, abc := []int64{'a', 'b'}, []int64{'a', 'b', 'c'}
 		if impl.MapCodes(cmp, codes[:2]).Code != impl.OK || impl.CompareCodes(cmp, abc[:2], ab).Value != 0 || impl.CompareCodes(cmp, codes[:2], abc).Value != -1 || impl.HasCodes(cmp, abc[:2], abc) || !impl.HasCodes(cmp, ab, abc[:2]) {
 			t.Errorf("%d: what is behind the characters counts", cmp)
+		}
+	}
+}
+
+func TestAnswersOfHeadersHangOnWhatIsGivenNotOnItsRoom(t *testing.T) {
+	data := []byte("A: b\n c\n\nD: e\n")
+	for n := range len(data) + 1 {
+		tight := slices.Clip(slices.Clone(data[:n]))
+		if !reflect.DeepEqual(impl.ParseHeader(data[:n]), impl.ParseHeader(tight)) {
+			t.Errorf("what is behind %d bytes counts", n)
+		}
+	}
+	fields := append(field("A", "b"), impl.Field{Name: "C", Value: "\n"})
+	if impl.FieldsFault(fields[:1]) != impl.OK || string(impl.PackHeader(fields[:1]).Bytes) != "A: b\n\n" || impl.FieldOf(fields[:1], "C").Code != impl.ErrNone {
+		t.Error("what is behind the fields counts")
+	}
+	codes := []int64{'a', '=', '?', -1}
+	if impl.EncodeWords(codes[:2]).Text != "a=" {
+		t.Error("what is behind the characters counts")
+	}
+	// A value that is cut out of a longer one: the end of its word is behind it.
+	value := "=?utf-8?Q?a?=\xc3\xa4"
+	for n := range len(value) + 1 {
+		if !reflect.DeepEqual(impl.DecodeWords(value[:n]), impl.DecodeWords(strings.Clone(value[:n]))) {
+			t.Errorf("what is behind %d bytes of a value counts", n)
 		}
 	}
 }
@@ -315,6 +412,37 @@ func TestAnswersOfComparatorsAreNewMemory(t *testing.T) {
 		clear(codes)
 		if !slices.Equal(second.Codes, before) {
 			t.Errorf("%d: an answer shares memory with its argument or with another one", cmp)
+		}
+	}
+}
+
+func TestAnswersOfHeadersAreNewMemory(t *testing.T) {
+	data := []byte("Subject: a b\n c\nX: y\n\nz")
+	want := []impl.Field{{Name: "Subject", Value: "a b c"}, {Name: "X", Value: "y"}}
+	first, second := impl.ParseHeader(data), impl.ParseHeader(data)
+	text := impl.FieldOf(first.Fields, "subject")
+	packed, again := impl.PackHeader(want), impl.PackHeader(want)
+	clear(data)
+	clear(first.Fields[:cap(first.Fields)])
+	if !slices.Equal(second.Fields, want) || text.Text != "a b c" {
+		t.Error("fields share memory with the bytes or with each other")
+	}
+	clear(packed.Bytes[:cap(packed.Bytes)])
+	if string(again.Bytes) != "Subject: a b c\nX: y\n\n" || want[1].Value != "y" {
+		t.Error("two headers share memory")
+	}
+	codes := times(50, 'a', 'b')
+	told := impl.EncodeWords(codes)
+	clear(codes)
+	if told.Text != strings.Repeat("ab", 50) {
+		t.Error("a text shares memory with its characters")
+	}
+	for _, value := range []string{"ab  ab", "=?utf-8?Q?ab?= =?utf-8?Q?ab?="} {
+		one, other := impl.DecodeWords(value), impl.DecodeWords(value)
+		kept := slices.Clone(one.Codes)
+		clear(other.Codes[:cap(other.Codes)])
+		if !slices.Equal(one.Codes, kept) {
+			t.Error("two answers share memory")
 		}
 	}
 }
