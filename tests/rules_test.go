@@ -2,6 +2,7 @@ package tests
 
 import (
 	"bytes"
+	"fmt"
 	"math"
 	"reflect"
 	"slices"
@@ -73,6 +74,34 @@ func wordsArguments() []string {
 	return append(textArguments(), "=?utf-8?Q?a=C3=A4_?= =?US-ASCII?b?Yg==?= y", "=?bad?Q?a?=", "=?", "=?utf-8?Q?", "=?utf-8?B??=", " \t", "\xe2\x82", strings.Repeat("=?", 1<<16), strings.Repeat("=?utf-8?Q?a?= ", 30))
 }
 
+func messageArguments() [][]byte {
+	list := headerArguments()
+	for _, text := range someMessages() {
+		list = append(list, []byte(text))
+	}
+	return append(list, tooLong()...)
+}
+
+func typeArguments() []string {
+	return append(textArguments(), ";", " ; ", "text/", "TEXT/x; charset=utf-8", "text/x;charset=", "text/x;charset=bad", "multipart/x; boundary=b", "image/x", strings.Repeat(";", 1<<16), "text/x"+strings.Repeat("; charset=utf-8", 1<<12))
+}
+
+func pathArguments() [][]int64 {
+	return [][]int64{nil, {}, {0}, {-1}, {1}, {2}, {1, 1}, {1, 2}, {3, 1}, {1, 2, 1}, {7}, {8}, {math.MinInt64}, {math.MaxInt64, 1}, times(1<<12, 1)}
+}
+
+func placeArguments() []int64 {
+	return append(numberArguments(), 2, 3, 6, 7, 8)
+}
+
+func bodiesArguments() [][][]byte {
+	list := [][][]byte{nil, {}, {nil}, {{}}, bodiesOf("\none"), bodiesOf("\none", "A: b\n\ntwo\n"), bodiesOf("--x"), bodiesOf("x", "\n--"), bodiesOf("1", "2", "3", "4", "5", "6"), bodiesOf("1", "2", "3", "4", "5", "6", "7"), make([][]byte, 1<<12)}
+	for _, data := range byteArguments() {
+		list = append(list, [][]byte{data, []byte("\nx")})
+	}
+	return list
+}
+
 // answer is one call's, told so that an empty list and nil are the same.
 type answer struct {
 	call string
@@ -111,6 +140,22 @@ func headerAnswer(call string, r impl.HeaderResult) answer {
 	return answer{call, r.Code, rest}
 }
 
+func intsAnswer(call string, r impl.IntsResult) answer {
+	return answer{call, r.Code, numbersText(r.List)}
+}
+
+func partsAnswer(call string, r impl.PartsResult) answer {
+	var text string
+	for _, p := range r.Parts {
+		text += partText(p)
+	}
+	return answer{call, r.Code, text}
+}
+
+func partText(p impl.Part) string {
+	return numbersText([]int64{p.Kind, p.Charset, p.Coding, p.From, p.To, p.Up, p.Number})
+}
+
 func fieldsText(list []impl.Field) string {
 	var text []byte
 	for _, f := range list {
@@ -130,7 +175,7 @@ func numbersText(list []int64) string {
 
 // allAnswers calls each function that is built with all arguments of its kind.
 func allAnswers() []answer {
-	return slices.Concat(xferAnswers(), charsAnswers(), collateAnswers(), headerAnswers())
+	return slices.Concat(xferAnswers(), charsAnswers(), collateAnswers(), headerAnswers(), mimeAnswers())
 }
 
 func xferAnswers() []answer {
@@ -220,6 +265,31 @@ func headerAnswers() []answer {
 	return list
 }
 
+func mimeAnswers() []answer {
+	var list []answer
+	for i, data := range messageArguments() {
+		at := strconv.Itoa(i) + " "
+		list = append(list, partsAnswer("ParseParts "+at, impl.ParseParts(data)))
+		for k, path := range pathArguments() {
+			list = append(list, intAnswer("PartAt "+at+strconv.Itoa(k), impl.PartAt(data, path)))
+		}
+		for _, part := range placeArguments() {
+			of := at + strconv.FormatInt(part, 10)
+			list = append(list, intsAnswer("PathOf "+of, impl.PathOf(data, part)))
+			list = append(list, bytesAnswer("BodyOf "+of, impl.BodyOf(data, part)))
+		}
+	}
+	for i, bodies := range bodiesArguments() {
+		for k, mark := range append(nameArguments(), "b", "mark", strings.Repeat("z", 20), strings.Repeat("z", 21)) {
+			list = append(list, bytesAnswer("BuildMulti "+strconv.Itoa(i)+" "+strconv.Itoa(k), impl.BuildMulti(mark, bodies)))
+		}
+	}
+	for i, value := range typeArguments() {
+		list = append(list, answer{"TypeOf " + strconv.Itoa(i), impl.OK, partText(impl.TypeOf(value))})
+	}
+	return list
+}
+
 // codesPairs has each list of characters on either side of each other one, and of itself.
 func codesPairs() [][2][]int64 {
 	var pairs [][2][]int64
@@ -256,7 +326,7 @@ func TestNothingIsKept(t *testing.T) {
 }
 
 func TestArgumentsStayAsTheyWere(t *testing.T) {
-	for i, data := range headerArguments() {
+	for i, data := range messageArguments() {
 		// What is behind the length belongs to the caller as well.
 		room := append(slices.Clone(data), 1, 2, 3, 4, 5, 6, 7, 8)
 		before := slices.Clone(room)
@@ -265,6 +335,14 @@ func TestArgumentsStayAsTheyWere(t *testing.T) {
 		impl.EncodeQuoted(given)
 		impl.IsPlain(given)
 		impl.ParseHeader(given)
+		impl.ParseParts(given)
+		for _, path := range pathArguments() {
+			impl.PartAt(given, path)
+		}
+		for _, part := range placeArguments() {
+			impl.PathOf(given, part)
+			impl.BodyOf(given, part)
+		}
 		for _, cs := range charsetArguments() {
 			impl.DecodeText(cs, given)
 		}
@@ -303,6 +381,35 @@ func TestArgumentsStayAsTheyWere(t *testing.T) {
 		impl.FieldOf(given, "subject")
 		if !slices.Equal(room, before) {
 			t.Errorf("fields %d were changed", i)
+		}
+	}
+}
+
+func TestPathsAndBodiesStayAsTheyWere(t *testing.T) {
+	message := []byte(deepMessage())
+	for i, path := range pathArguments() {
+		room := append(slices.Clone(path), 1, 2, 3, 4, 5, 6, 7, 8)
+		before := slices.Clone(room)
+		impl.PartAt(message, room[:len(path)])
+		if !slices.Equal(room, before) {
+			t.Errorf("path %d was changed", i)
+		}
+	}
+	for i, bodies := range bodiesArguments() {
+		// Each body has room behind it, and so has the list of them.
+		var room, before [][]byte
+		for _, body := range append(slices.Clone(bodies), []byte("behind"), []byte("them")) {
+			whole := append(slices.Clone(body), "12345678"...)
+			room = append(room, whole[:len(body)])
+			before = append(before, slices.Clone(whole))
+		}
+		for _, mark := range []string{"b", "mark", "B"} {
+			impl.BuildMulti(mark, room[:len(bodies)])
+		}
+		for k, body := range room {
+			if len(body)+8 != len(before[k]) || !bytes.Equal(body[:len(before[k])], before[k]) {
+				t.Errorf("bodies %d: body %d was changed", i, k)
+			}
 		}
 	}
 }
@@ -357,6 +464,72 @@ func TestAnswersOfHeadersHangOnWhatIsGivenNotOnItsRoom(t *testing.T) {
 		if !reflect.DeepEqual(impl.DecodeWords(value[:n]), impl.DecodeWords(strings.Clone(value[:n]))) {
 			t.Errorf("what is behind %d bytes of a value counts", n)
 		}
+	}
+}
+
+func TestAnswersOfPartsHangOnWhatIsGivenNotOnItsRoom(t *testing.T) {
+	data := []byte(deepMessage())
+	for n := range len(data) + 1 {
+		tight := slices.Clip(slices.Clone(data[:n]))
+		if !reflect.DeepEqual(impl.ParseParts(data[:n]), impl.ParseParts(tight)) {
+			t.Errorf("what is behind %d bytes counts", n)
+		}
+		for place := range int64(impl.MaxParts) {
+			if !reflect.DeepEqual(impl.PathOf(data[:n], place), impl.PathOf(tight, place)) || !bytes.Equal(impl.BodyOf(data[:n], place).Bytes, impl.BodyOf(tight, place).Bytes) {
+				t.Errorf("what is behind %d bytes counts for part %d", n, place)
+			}
+		}
+	}
+	path := []int64{1, 2, 9, 9}
+	if got := impl.PartAt(data, path[:2]); got != (impl.IntResult{Value: 3}) {
+		t.Errorf("what is behind a path counts: %+v", got)
+	}
+	body := []byte("\none\n--two")
+	bodies := [][]byte{body[:4], []byte("--")}
+	if got := impl.BuildMulti("b", bodies[:1]); string(got.Bytes) != multi("b", "\none") {
+		t.Errorf("what is behind a body counts: %+v", got)
+	}
+}
+
+func TestAnswersOfPartsAreNewMemory(t *testing.T) {
+	data := []byte(deepMessage())
+	bodies := bodiesOf("\none", "\ntwo")
+	type answers struct {
+		parts impl.PartsResult
+		path  impl.IntsResult
+		body  impl.BytesResult
+		whole impl.BytesResult
+		built impl.BytesResult
+	}
+	ask := func() answers {
+		return answers{impl.ParseParts(data), impl.PathOf(data, 3), impl.BodyOf(data, 2), impl.BodyOf(data, 0), impl.BuildMulti("b", bodies)}
+	}
+	// A text, as what is kept to hold answers against may not share memory with them.
+	want := fmt.Sprint(ask())
+	first, second := ask(), ask()
+	if len(first.parts.Parts) != 7 || len(first.path.List) != 2 || string(first.body.Bytes) != "one" || string(first.built.Bytes) != multi("b", "\none", "\ntwo") {
+		t.Errorf("got %+v", first)
+	}
+	clear(first.parts.Parts[:cap(first.parts.Parts)])
+	clear(first.path.List[:cap(first.path.List)])
+	clear(first.body.Bytes[:cap(first.body.Bytes)])
+	clear(first.whole.Bytes[:cap(first.whole.Bytes)])
+	clear(first.built.Bytes[:cap(first.built.Bytes)])
+	if string(data) != deepMessage() || string(bodies[0]) != "\none" {
+		t.Error("an answer shares memory with its argument")
+	}
+	clear(data)
+	clear(bodies[0])
+	clear(bodies[1])
+	if fmt.Sprint(second) != want {
+		t.Error("an answer shares memory with its argument or with another one")
+	}
+	// Nor does what is empty lie in the argument: what is put behind it changes nothing there.
+	empty := []byte(head("b") + "--b\n--b--\n")
+	kept := slices.Clone(empty)
+	_ = append(impl.BodyOf(empty, 1).Bytes, "new"...)
+	if !bytes.Equal(empty, kept) {
+		t.Error("an empty body lies in its message")
 	}
 }
 
