@@ -76,7 +76,7 @@ func wordsArguments() []string {
 
 func messageArguments() [][]byte {
 	list := headerArguments()
-	for _, text := range someMessages() {
+	for _, text := range slices.Concat(someMessages(), viewMessages()) {
 		list = append(list, []byte(text))
 	}
 	return append(list, tooLong()...)
@@ -92,6 +92,10 @@ func pathArguments() [][]int64 {
 
 func placeArguments() []int64 {
 	return append(numberArguments(), 2, 3, 6, 7, 8)
+}
+
+func sliceArguments() []int64 {
+	return append(numberArguments(), 399, 400, 401)
 }
 
 func bodiesArguments() [][][]byte {
@@ -175,7 +179,7 @@ func numbersText(list []int64) string {
 
 // allAnswers calls each function that is built with all arguments of its kind.
 func allAnswers() []answer {
-	return slices.Concat(xferAnswers(), charsAnswers(), collateAnswers(), headerAnswers(), mimeAnswers())
+	return slices.Concat(xferAnswers(), charsAnswers(), collateAnswers(), headerAnswers(), mimeAnswers(), viewAnswers())
 }
 
 func xferAnswers() []answer {
@@ -290,6 +294,28 @@ func mimeAnswers() []answer {
 	return list
 }
 
+func viewAnswers() []answer {
+	var list []answer
+	for i, data := range messageArguments() {
+		at := strconv.Itoa(i) + " "
+		list = append(list, codesAnswer("SubjectOf "+at, impl.SubjectOf(data)))
+		list = append(list, codesAnswer("PreviewOf "+at, impl.PreviewOf(data)))
+		list = append(list, bytesAnswer("LegacyOf "+at, impl.LegacyOf(data)))
+		for _, n := range placeArguments() {
+			of := at + strconv.FormatInt(n, 10) + " "
+			list = append(list, bytesAnswer("PartBytes "+of, impl.PartBytes(data, n)))
+			list = append(list, codesAnswer("PartCodes "+of, impl.PartCodes(data, n)))
+			for _, cs := range charsetArguments() {
+				list = append(list, bytesAnswer("ConvertPart "+of+strconv.FormatInt(cs, 10), impl.ConvertPart(data, n, cs)))
+			}
+			for _, from := range sliceArguments() {
+				list = append(list, bytesAnswer("SliceOf "+of+strconv.FormatInt(from, 10), impl.SliceOf(data, from, n)))
+			}
+		}
+	}
+	return list
+}
+
 // codesPairs has each list of characters on either side of each other one, and of itself.
 func codesPairs() [][2][]int64 {
 	var pairs [][2][]int64
@@ -346,6 +372,7 @@ func TestArgumentsStayAsTheyWere(t *testing.T) {
 		for _, cs := range charsetArguments() {
 			impl.DecodeText(cs, given)
 		}
+		callViews(given)
 		if !bytes.Equal(room, before) {
 			t.Errorf("argument %d was changed", i)
 		}
@@ -381,6 +408,23 @@ func TestArgumentsStayAsTheyWere(t *testing.T) {
 		impl.FieldOf(given, "subject")
 		if !slices.Equal(room, before) {
 			t.Errorf("fields %d were changed", i)
+		}
+	}
+}
+
+// callViews calls all functions of views with these bytes.
+func callViews(data []byte) {
+	impl.SubjectOf(data)
+	impl.PreviewOf(data)
+	impl.LegacyOf(data)
+	for _, place := range placeArguments() {
+		impl.PartBytes(data, place)
+		impl.PartCodes(data, place)
+		for _, cs := range charsetArguments() {
+			impl.ConvertPart(data, place, cs)
+		}
+		for _, n := range sliceArguments() {
+			impl.SliceOf(data, place, n)
 		}
 	}
 }
@@ -488,6 +532,75 @@ func TestAnswersOfPartsHangOnWhatIsGivenNotOnItsRoom(t *testing.T) {
 	bodies := [][]byte{body[:4], []byte("--")}
 	if got := impl.BuildMulti("b", bodies[:1]); string(got.Bytes) != multi("b", "\none") {
 		t.Errorf("what is behind a body counts: %+v", got)
+	}
+}
+
+func TestAnswersOfViewsHangOnWhatIsGivenNotOnItsRoom(t *testing.T) {
+	for _, text := range viewMessages() {
+		data := []byte(text)
+		for n := range len(data) + 1 {
+			tight := slices.Clip(slices.Clone(data[:n]))
+			if fmt.Sprint(wholeViews(data[:n])) != fmt.Sprint(wholeViews(tight)) {
+				t.Errorf("%q: what is behind %d bytes counts", text, n)
+			}
+		}
+	}
+	if got := impl.SliceOf([]byte("abcdef")[:3], 1, impl.MaxBytes); string(got.Bytes) != "bc" {
+		t.Errorf("what is behind the bytes is in a slice: %q", got.Bytes)
+	}
+}
+
+// views are what is seen of a message and of one part of it.
+type views struct {
+	subject, preview, codes            impl.CodesResult
+	legacy, bytes, converted, cut, all impl.BytesResult
+}
+
+func viewsOf(data []byte, place, cs int64) views {
+	return views{
+		impl.SubjectOf(data), impl.PreviewOf(data), impl.PartCodes(data, place),
+		impl.LegacyOf(data), impl.PartBytes(data, place), impl.ConvertPart(data, place, cs), impl.SliceOf(data, 2, 5), impl.SliceOf(data, 0, impl.MaxBytes),
+	}
+}
+
+func wholeViews(data []byte) []views {
+	return []views{viewsOf(data, 0, impl.CsUtf8), viewsOf(data, 1, impl.CsUtf16), viewsOf(data, 2, impl.CsLatin)}
+}
+
+// wipe clears all lists of the views, and the room behind them.
+func (v views) wipe() {
+	for _, r := range []impl.CodesResult{v.subject, v.preview, v.codes} {
+		clear(r.Codes[:cap(r.Codes)])
+	}
+	for _, r := range []impl.BytesResult{v.legacy, v.bytes, v.converted, v.cut, v.all} {
+		clear(r.Bytes[:cap(r.Bytes)])
+	}
+}
+
+func TestAnswersOfViewsAreNewMemory(t *testing.T) {
+	for _, text := range slices.Concat(viewMessages(), []string{"Subject: a\n\nplain  text", "Subject: ä\n" + textOf("us-ascii", "base64", "cGxhaW4="), "Subject: a\n" + textOf("utf-8", "quoted-printable", "=70lain")}) {
+		for place := range int64(len(impl.ParseParts([]byte(text)).Parts)) {
+			data := []byte(text + "behind")[:len(text)]
+			// A text, as what is kept to hold answers against may not share memory with them.
+			want := fmt.Sprint(viewsOf(data, place, impl.CsUtf8))
+			first, second := viewsOf(data, place, impl.CsUtf8), viewsOf(data, place, impl.CsUtf8)
+			first.wipe()
+			if string(data[:len(text)+6]) != text+"behind" {
+				t.Errorf("%q: an answer shares memory with its argument", text)
+			}
+			clear(data)
+			if fmt.Sprint(second) != want {
+				t.Errorf("%q: an answer shares memory with its argument or with another one", text)
+			}
+		}
+	}
+	// Nor does what is empty lie in the argument: what is put behind it changes nothing there.
+	data := []byte("A: b\n\n")[:6]
+	for _, empty := range []impl.BytesResult{impl.SliceOf(data, 0, 0), impl.SliceOf(data, 3, 0), impl.SliceOf(data, 6, 1), impl.PartBytes(data, 0), impl.ConvertPart(data, 0, impl.CsUtf8)} {
+		_ = append(empty.Bytes, "new"...)
+	}
+	if string(data) != "A: b\n\n" {
+		t.Errorf("an empty answer lies in its message: %q", data)
 	}
 }
 
