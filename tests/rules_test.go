@@ -3,6 +3,7 @@ package tests
 import (
 	"bytes"
 	"fmt"
+	"maps"
 	"math"
 	"reflect"
 	"slices"
@@ -106,6 +107,40 @@ func bodiesArguments() [][][]byte {
 	return list
 }
 
+func messageArgumentsOfBoxes() []impl.Message {
+	var list []impl.Message
+	for _, m := range faultyMessages() {
+		list = append(list, m...)
+	}
+	for _, n := range numberArguments() {
+		list = append(list, impl.Message{Uid: n}, impl.Message{Uid: 1, Flags: n}, impl.Message{Uid: 1, Date: n}, impl.Message{Uid: 1, Data: someBytes(int(n & 511))})
+	}
+	return list
+}
+
+func boxArguments() []impl.Box {
+	list := []impl.Box{{}, box("in", 1, 1), box("in", 1, 1000, 1, 2, 3, 4, 5, 999), box(strings.Repeat("a", 1<<20), 1, 1)}
+	for _, m := range faultyMessages() {
+		list = append(list, impl.Box{Name: "in", Validity: 1, Next: 7, Messages: m})
+	}
+	for _, n := range numberArguments() {
+		list = append(list, box("in", n, 7, 1), box("in", 1, n, 1), box("in", 1, 7, n))
+	}
+	return list
+}
+
+func storeArguments() []impl.Store {
+	list := slices.Concat(someStores(), faultyStores())
+	others := otherStores()
+	for _, what := range slices.Sorted(maps.Keys(others)) {
+		list = append(list, others[what])
+	}
+	for _, n := range numberArguments() {
+		list = append(list, store(n), store(n, box("in", 1, 7, 1)), store(9, box("in", n, 7, 1)))
+	}
+	return list
+}
+
 // answer is one call's, told so that an empty list and nil are the same.
 type answer struct {
 	call string
@@ -179,7 +214,7 @@ func numbersText(list []int64) string {
 
 // allAnswers calls each function that is built with all arguments of its kind.
 func allAnswers() []answer {
-	return slices.Concat(xferAnswers(), charsAnswers(), collateAnswers(), headerAnswers(), mimeAnswers(), viewAnswers())
+	return slices.Concat(xferAnswers(), charsAnswers(), collateAnswers(), headerAnswers(), mimeAnswers(), viewAnswers(), boxAnswers())
 }
 
 func xferAnswers() []answer {
@@ -316,6 +351,38 @@ func viewAnswers() []answer {
 	return list
 }
 
+func boxAnswers() []answer {
+	var list []answer
+	for i, m := range messageArgumentsOfBoxes() {
+		list = append(list, answer{"MessageFault " + strconv.Itoa(i), impl.MessageFault(m), ""})
+	}
+	for i, b := range boxArguments() {
+		at := strconv.Itoa(i) + " "
+		list = append(list, answer{"BoxFault " + at, impl.BoxFault(b), ""})
+		for _, uid := range numberArguments() {
+			list = append(list, intAnswer("SequenceOf "+at+strconv.FormatInt(uid, 10), impl.SequenceOf(b, uid)))
+		}
+	}
+	stores := storeArguments()
+	for i, s := range stores {
+		at := strconv.Itoa(i) + " "
+		list = append(list, answer{"StoreFault " + at, impl.StoreFault(s), ""})
+		for k, name := range append(nameArguments(), "in", "old", "z") {
+			list = append(list, intAnswer("BoxOf "+at+strconv.Itoa(k), impl.BoxOf(s, name)))
+		}
+		for k, other := range stores {
+			list = append(list, boolAnswer("SameStores "+at+strconv.Itoa(k), impl.SameStores(s, other)))
+		}
+	}
+	for _, flags := range numberArguments() {
+		list = append(list, textAnswer("FlagsText "+strconv.FormatInt(flags, 10), impl.FlagsText(flags)))
+	}
+	for i, text := range append(nameArguments(), wantFlags...) {
+		list = append(list, intAnswer("ParseFlags "+strconv.Itoa(i), impl.ParseFlags(text)))
+	}
+	return list
+}
+
 // codesPairs has each list of characters on either side of each other one, and of itself.
 func codesPairs() [][2][]int64 {
 	var pairs [][2][]int64
@@ -336,7 +403,7 @@ func TestWithACodeAllElseIsZero(t *testing.T) {
 			t.Errorf("%s: code %d beside an answer", a.call, a.code)
 		}
 	}
-	for _, code := range []int64{impl.OK, impl.ErrForm, impl.ErrMany, impl.ErrRange, impl.ErrNone, impl.ErrText, impl.ErrCode, impl.ErrChars} {
+	for _, code := range []int64{impl.OK, impl.ErrForm, impl.ErrMany, impl.ErrRange, impl.ErrNone, impl.ErrText, impl.ErrTaken, impl.ErrCode, impl.ErrChars, impl.ErrState} {
 		if codes[code] == 0 {
 			t.Errorf("no call has the code %d", code)
 		}
@@ -453,6 +520,79 @@ func TestPathsAndBodiesStayAsTheyWere(t *testing.T) {
 		for k, body := range room {
 			if len(body)+8 != len(before[k]) || !bytes.Equal(body[:len(before[k])], before[k]) {
 				t.Errorf("bodies %d: body %d was changed", i, k)
+			}
+		}
+	}
+}
+
+// roomy is the same store in new memory, where each list has something behind it that belongs to the caller.
+func roomy(s impl.Store) impl.Store {
+	fresh := impl.Store{Validity: s.Validity}
+	for _, b := range s.Boxes {
+		list := b.Messages
+		b.Messages = nil
+		for _, m := range list {
+			m.Data = append(slices.Clone(m.Data), "behind"...)[:len(m.Data)]
+			b.Messages = append(b.Messages, m)
+		}
+		b.Messages = append(b.Messages, messages(77, 78, 79)...)[:len(list)]
+		fresh.Boxes = append(fresh.Boxes, b)
+	}
+	fresh.Boxes = append(fresh.Boxes, box("behind", 5, 5, 4), box("in", 1, 1))[:len(s.Boxes)]
+	return fresh
+}
+
+// wholeRoom tells all that a store has, with what is behind its lists.
+func wholeRoom(s impl.Store) string {
+	text := fmt.Sprint(s)
+	for _, b := range s.Boxes[:cap(s.Boxes)] {
+		text += fmt.Sprint(b)
+		for _, m := range b.Messages[:cap(b.Messages)] {
+			text += fmt.Sprint(m, m.Data[:cap(m.Data)])
+		}
+	}
+	return text
+}
+
+func TestStoresStayAsTheyWere(t *testing.T) {
+	for i, s := range storeArguments() {
+		given, other := roomy(s), roomy(s)
+		before := wholeRoom(given)
+		impl.StoreFault(given)
+		for _, name := range []string{"in", "z", "none"} {
+			impl.BoxOf(given, name)
+		}
+		for _, b := range given.Boxes {
+			impl.BoxFault(b)
+			impl.SequenceOf(b, 4)
+			for _, m := range b.Messages {
+				impl.MessageFault(m)
+			}
+		}
+		impl.SameStores(given, other)
+		impl.SameStores(given, fullStore())
+		impl.SameStores(fullStore(), given)
+		if wholeRoom(given) != before || wholeRoom(other) != before {
+			t.Errorf("store %d was changed", i)
+		}
+	}
+}
+
+func TestAnswersOfStoresHangOnWhatIsGivenNotOnItsRoom(t *testing.T) {
+	for i, s := range storeArguments() {
+		given := roomy(s)
+		askCode(t, fmt.Sprint("store ", i), impl.StoreFault(given), impl.StoreFault(s))
+		askBool(t, fmt.Sprint("store ", i), impl.SameStores(given, s), true)
+		askBool(t, fmt.Sprint("store ", i), impl.SameStores(s, given), true)
+		for _, name := range []string{"in", "behind"} {
+			if got, want := impl.BoxOf(given, name), impl.BoxOf(s, name); got != want {
+				t.Errorf("what is behind the mailboxes of store %d counts: %+v, want %+v", i, got, want)
+			}
+		}
+		for k, b := range given.Boxes {
+			askCode(t, "a mailbox", impl.BoxFault(b), impl.BoxFault(s.Boxes[k]))
+			if got, want := impl.SequenceOf(b, 77), impl.SequenceOf(s.Boxes[k], 77); got != want {
+				t.Errorf("what is behind the messages of store %d counts: %+v, want %+v", i, got, want)
 			}
 		}
 	}
