@@ -214,7 +214,7 @@ func numbersText(list []int64) string {
 
 // allAnswers calls each function that is built with all arguments of its kind.
 func allAnswers() []answer {
-	return slices.Concat(xferAnswers(), charsAnswers(), collateAnswers(), headerAnswers(), mimeAnswers(), viewAnswers(), boxAnswers())
+	return slices.Concat(xferAnswers(), charsAnswers(), collateAnswers(), headerAnswers(), mimeAnswers(), viewAnswers(), boxAnswers(), opsAnswers())
 }
 
 func xferAnswers() []answer {
@@ -403,7 +403,7 @@ func TestWithACodeAllElseIsZero(t *testing.T) {
 			t.Errorf("%s: code %d beside an answer", a.call, a.code)
 		}
 	}
-	for _, code := range []int64{impl.OK, impl.ErrForm, impl.ErrMany, impl.ErrRange, impl.ErrNone, impl.ErrText, impl.ErrTaken, impl.ErrCode, impl.ErrChars, impl.ErrState} {
+	for _, code := range []int64{impl.OK, impl.ErrForm, impl.ErrMany, impl.ErrRange, impl.ErrNone, impl.ErrText, impl.ErrTaken, impl.ErrCode, impl.ErrChars, impl.ErrState, impl.ErrFull} {
 		if codes[code] == 0 {
 			t.Errorf("no call has the code %d", code)
 		}
