@@ -170,7 +170,7 @@ func journalOps() []impl.Op {
 	return append(list, addOp("in", 0, 0, zeros), addOp("in", 15, 9999, highs), addOp("in", 0, 0, "\n"), addOp("in", 0, 0, string(allBytes())))
 }
 
-// An op as bytes, counted by hand.
+// packedByHand are written out byte by byte; their sums were worked out apart from the program.
 var packedByHand = []struct {
 	op   impl.Op
 	data string
