@@ -298,7 +298,7 @@ func wantHeader(data string) (fields []impl.Field, at, code int64) {
 			return nil, 0, impl.ErrForm
 		}
 		value := strings.ReplaceAll(found[2], "\n", "")
-		if len(value) > 120 || strings.ContainsAny(value, "\t\x00\x1f\x7f") || len(fields) == 8 {
+		if len(value) > 120 || strings.ContainsFunc(value, func(r rune) bool { return r < 32 || r == 127 }) || len(fields) == 8 {
 			return nil, 0, impl.ErrForm
 		}
 		fields = append(fields, impl.Field{Name: found[1], Value: value})
