@@ -190,18 +190,24 @@ func TestAnswersOfWorldsHangOnWhatIsGivenNotOnItsRoom(t *testing.T) {
 	}
 }
 
+// emptyAndBare are the same world twice: what is nothing is an empty list in the first one, and nil in the second one.
+func emptyAndBare(w impl.World) (empty, bare impl.World) {
+	empty, bare = clonedWorld(w), clonedWorld(w)
+	empty.Vault.Sure, empty.Vault.Loose = append([]byte{}, w.Vault.Sure...), append([]byte{}, w.Vault.Loose...)
+	empty.Vault.Store.Boxes = append([]impl.Box{}, w.Vault.Store.Boxes...)
+	for at := range w.Sessions {
+		empty.Sessions[at].Seen = append([]int64{}, w.Sessions[at].Seen...)
+		if len(w.Sessions[at].Seen) == 0 {
+			bare.Sessions[at].Seen = nil
+		}
+	}
+	return empty, bare
+}
+
 func TestNothingAndAnEmptyListAreTheSameWorld(t *testing.T) {
 	calls := callsOfWorlds()
 	for i, w := range goodWorlds() {
-		empty, bare := clonedWorld(w), clonedWorld(w)
-		empty.Vault.Sure, empty.Vault.Loose = append([]byte{}, w.Vault.Sure...), append([]byte{}, w.Vault.Loose...)
-		empty.Vault.Store.Boxes = append([]impl.Box{}, w.Vault.Store.Boxes...)
-		for at := range w.Sessions {
-			empty.Sessions[at].Seen = append([]int64{}, w.Sessions[at].Seen...)
-			if len(w.Sessions[at].Seen) == 0 {
-				bare.Sessions[at].Seen = nil
-			}
-		}
+		empty, bare := emptyAndBare(w)
 		for what, call := range calls {
 			askWorld(t, fmt.Sprint(what, " of world ", i), call(empty), call(bare))
 		}

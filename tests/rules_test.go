@@ -214,7 +214,7 @@ func numbersText(list []int64) string {
 
 // allAnswers calls each function that is built with all arguments of its kind.
 func allAnswers() []answer {
-	return slices.Concat(xferAnswers(), charsAnswers(), collateAnswers(), headerAnswers(), mimeAnswers(), viewAnswers(), boxAnswers(), opsAnswers(), journalAnswers(), vaultAnswers(), setAnswers(), searchAnswers(), sortAnswers(), commandAnswers(), serverAnswers())
+	return slices.Concat(xferAnswers(), charsAnswers(), collateAnswers(), headerAnswers(), mimeAnswers(), viewAnswers(), boxAnswers(), opsAnswers(), journalAnswers(), vaultAnswers(), setAnswers(), searchAnswers(), sortAnswers(), commandAnswers(), serverAnswers(), scriptAnswers())
 }
 
 func xferAnswers() []answer {
